@@ -287,7 +287,7 @@ func TestDevOneByteMore(t *testing.T) {
 	}
 }
 
-// P1, at every short text over the bytes that operands are made of.
+// P1, at every text of at most four bytes out of thirteen, some of which operands are made of.
 func TestDevShortTexts(t *testing.T) {
 	texts := []string{""}
 	for range 5 {
